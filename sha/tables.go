@@ -1,4 +1,4 @@
-package digest
+package sha
 
 // SHA-1 has five words only; the others stay 0, so that it shares the state of
 // SHA-256.

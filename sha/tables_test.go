@@ -1,4 +1,4 @@
-package digest
+package sha
 
 import (
 	"math/big"
