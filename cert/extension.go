@@ -38,10 +38,10 @@ func (r *reader) extensions() {
 	r.extended = true
 	if len(r.left) > api.MaxExts {
 		r.many = true
-		r.left = nil
+		r.whatever()
 	}
 	for len(r.left) > 0 {
-		r.within(r.seq().Data, r.extension)
+		r.seq(r.extension)
 	}
 }
 
@@ -69,25 +69,25 @@ func (r *reader) extension() {
 func (r *reader) value(kind int) {
 	switch kind {
 	case extConstraints:
-		r.within(r.seq().Data, r.constraints)
+		r.seq(r.constraints)
 	case extUsage:
 		r.cert.Usage = r.flags()
 	case extUses:
-		r.each(r.seq().Data, func() { r.cert.Eku = append(r.cert.Eku, r.oid()) })
+		r.seq(r.each(func() { r.cert.Eku = append(r.cert.Eku, r.oid()) }))
 	case extNames:
-		r.each(r.seq().Data, func() { r.cert.Names = append(r.cert.Names, r.general(false)) })
+		r.seq(r.each(func() { r.cert.Names = append(r.cert.Names, r.general(false)) }))
 	case extBounds:
-		r.within(r.seq().Data, r.bounds)
+		r.seq(r.bounds)
 	case extPolicies:
-		r.each(r.seq().Data, func() { r.within(r.seq().Data, r.policy) })
+		r.seq(r.each(func() { r.seq(r.policy) }))
 	case extRequire:
-		r.within(r.seq().Data, r.require)
+		r.seq(r.require)
 	case extInhibit:
 		r.cert.Inhibit = r.count(r.plain(api.TagInt))
 	case extSubjectKey:
 		r.cert.Ski = r.plain(api.TagOctets)
 	case extIssuerKey:
-		r.within(r.seq().Data, r.issuerKey)
+		r.seq(r.issuerKey)
 	}
 }
 
@@ -109,9 +109,9 @@ func (r *reader) bases(tag int) []api.Gen {
 		return nil
 	}
 	var l []api.Gen
-	r.each(r.next().Data, func() {
-		r.within(r.seq().Data, func() { l = append(l, r.base()) })
-	})
+	r.within(r.next().Data, r.each(func() {
+		r.seq(func() { l = append(l, r.base()) })
+	}))
 	return l
 }
 
@@ -129,7 +129,7 @@ func (r *reader) base() api.Gen {
 func (r *reader) policy() {
 	r.cert.Policies = append(r.cert.Policies, r.oid())
 	if r.is(api.Universal, api.TagSeq, true) {
-		r.next()
+		r.seq(r.whatever)
 	}
 }
 

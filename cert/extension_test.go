@@ -234,9 +234,6 @@ func TestPolicies(t *testing.T) {
 	p := seq(hx("06 02 2a 03"))
 	wantValue(t, 32, seq(p), func(c *api.Cert) { c.Policies = []string{"1.2.3"} })
 	wantValue(t, 32, seq(p, seq(hx("06 04 55 1d 20 00"), seq()), p), func(c *api.Cert) { c.Policies = []string{"1.2.3", api.AnyPolicy, "1.2.3"} })
-	for _, in := range [][]byte{nil, void, {5}, hx("30 80"), hx("00 00"), often(300, byte(1))} {
-		wantValue(t, 32, seq(seq(hx("06 02 2a 03"), seq(in))), func(c *api.Cert) { c.Policies = []string{"1.2.3"} })
-	}
 	wantCounts(t, 32, p, func(c *api.Cert, n int) { c.Policies = often(n, "1.2.3") })
 	for _, x := range noOids() {
 		wantNoValue(t, 32, seq(seq(x)))

@@ -213,7 +213,7 @@ func TestWays(t *testing.T) {
 
 // Ways that are none are told so, if they are Seqs at all, and alike.
 func TestWaysThatAreNone(t *testing.T) {
-	for _, digits := range []string{"30 00", "30 02 05 00", "30 03 06 01 2a", "30 01 05", "30 02 30 80", "30 0c 06 08 2a 86 48 ce 3d 04 03 02 05 00", "30 0b 06 09 2a 86 48 86 f7 0d 01 01 0a", hexGermany} {
+	for _, digits := range []string{"30 00", "30 02 05 00", "30 03 06 01 2a", "30 03 30 01 05", "30 0c 06 08 2a 86 48 ce 3d 04 03 02 05 00", "30 0b 06 09 2a 86 48 86 f7 0d 01 01 0a", hexGermany} {
 		wantNoParse(t, "no way", plain().signing(hx(digits)).bytes(), api.ErrAlg)
 	}
 	for _, digits := range []string{"31 0d 06 09 2a 86 48 86 f7 0d 01 01 05 05 00", "06 09 2a 86 48 86 f7 0d 01 01 05", "05 00", "10 00", "b0 00", "70 00", "04 00"} {
@@ -234,7 +234,7 @@ func TestKeys(t *testing.T) {
 	wantNoParse(t, "no point", plain().with(key, point).bytes(), api.ErrKey)
 	wantNoParse(t, "no bits", plain().with(key, seq(hx(hexRsa), hx("03 01 00"))).bytes(), api.ErrKey)
 	wantNoParse(t, "a small modulus", plain().with(key, seq(hx(hexRsa), el(0x03, []byte{0}, seq(small(15), small(3))))).bytes(), api.ErrKey)
-	for _, digits := range []string{"30 00", "30 01 05", "30 02 05 00", "30 04 30 00 03 00", hexGermany, hexRsaSha1, hexRsa} {
+	for _, digits := range []string{"30 00", "30 02 05 00", "30 04 30 00 03 00", hexGermany, hexRsaSha1, hexRsa} {
 		wantNoParse(t, "no key", plain().with(key, hx(digits)).bytes(), api.ErrAlg)
 	}
 	wantNoParse(t, "bits to spare", plain().with(key, seq(hx(hexRsa), hx("03 02 01 00"))).bytes(), api.ErrAlg)

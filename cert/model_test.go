@@ -64,10 +64,13 @@ func form(data []byte, like string) []api.Tlv {
 	return l
 }
 
-// checkValue asks what Ints, Oids, Bools, Bits must have wherever they stand.
+// checkValue asks what Seqs, Ints, Oids, Bools, Bits must have wherever they
+// stand.
 func checkValue(x api.Tlv) {
 	e := api.OK
 	switch letter(x) {
+	case "S":
+		_, e, _ = der.Split(x.Data)
 	case "b":
 		_, e = der.Bool(x.Data)
 	case "i":

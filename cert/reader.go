@@ -48,26 +48,30 @@ func (r *reader) within(data []byte, read func()) {
 	r.need(!inner.wrong && len(inner.left) == 0)
 }
 
+// seq reads a Seq, and has no way to leave its Data unsplit: without a row in it
+// there is no Seq, even where nobody asks which elements these are.
+func (r *reader) seq(read func()) api.Tlv {
+	x := r.take(api.Universal, api.TagSeq, true)
+	r.within(x.Data, read)
+	return x
+}
+
 // each reads, one by one, as many as may stand where the document says "of".
-func (r *reader) each(data []byte, read func()) {
-	r.within(data, func() {
+func (r *reader) each(read func()) func() {
+	return func() {
 		r.need(len(r.left) >= 1 && len(r.left) <= api.MaxNames)
 		for len(r.left) > 0 {
 			read()
 		}
-	})
+	}
 }
 
 func (r *reader) certificate() {
-	whole := r.seq()
-	r.cert.Raw = whole.Raw
-	r.within(whole.Data, func() {
-		tbs := r.seq()
-		r.cert.Tbs = tbs.Raw
-		r.within(tbs.Data, r.body)
-		r.need(bytes.Equal(r.seq().Raw, r.way.Raw))
+	r.cert.Raw = r.seq(func() {
+		r.cert.Tbs = r.seq(r.body).Raw
+		r.need(bytes.Equal(r.seq(r.whatever).Raw, r.way.Raw))
 		r.cert.Sig = r.wholeBytes()
-	})
+	}).Raw
 }
 
 func (r *reader) body() {
@@ -75,17 +79,15 @@ func (r *reader) body() {
 		r.within(r.next().Data, r.readVersion)
 	}
 	r.cert.Serial = r.integer()
-	r.way = r.seq()
+	r.way = r.seq(r.whatever)
 	r.cert.Issuer = r.name()
-	r.within(r.seq().Data, r.times)
+	r.seq(r.times)
 	r.cert.Subject = r.name()
-	r.key = r.seq()
+	r.key = r.seq(r.whatever)
 	r.skip(1)
 	r.skip(2)
 	if r.is(api.Context, 3, true) {
-		r.within(r.next().Data, func() {
-			r.within(r.seq().Data, r.extensions)
-		})
+		r.within(r.next().Data, func() { r.seq(r.extensions) })
 	}
 }
 

@@ -58,8 +58,9 @@ func (r *row) plain(tag int) []byte {
 	return r.take(api.Universal, tag, false).Data
 }
 
-func (r *row) seq() api.Tlv {
-	return r.take(api.Universal, api.TagSeq, true)
+// whatever passes over all that is left.
+func (r *row) whatever() {
+	r.left = nil
 }
 
 // skip passes over an element [tag]- that may be there.
